@@ -1,6 +1,9 @@
 package gate
 
-import "tapeworks/api"
+import (
+	"tapeworks/api"
+	"tapeworks/circuit"
+)
 
 // side is a gate or its negation.
 type side struct {
@@ -10,12 +13,12 @@ type side struct {
 
 // turner moves the negations of a circuit down to its inputs. Each side of a gate is placed once at most: circuits that share gates have far more paths than gates.
 type turner struct {
-	to     *builder
+	to     circuit.Builder
 	from   []api.Gate
 	placed map[side]int
 }
 
-// place returns the number of a gate of the new circuit for a side of one of the old circuit. It adds what this needs and nothing else, so that the last gate comes last.
+// place returns the number of a gate of the new circuit for a side of one of the old circuit.
 func (t *turner) place(s side) int {
 	number, found := t.placed[s]
 	if !found {
@@ -30,16 +33,16 @@ func (t *turner) add(g api.Gate, negated bool) int {
 	case api.GNot:
 		return t.place(side{g.A, !negated})
 	case api.GIn:
-		input := t.to.input(g.A)
+		input := t.to.Input(g.A)
 		if negated {
-			return t.to.not(input)
+			return t.to.Not(input)
 		}
 		return input
 	}
 	a, b := t.place(side{g.A, negated}), t.place(side{g.B, negated})
 	// The negation of a conjunction is the disjunction of the negations, and the other way round.
 	if (g.Kind == api.GAnd) != negated {
-		return t.to.and(a, b)
+		return t.to.And(a, b)
 	}
-	return t.to.or(a, b)
+	return t.to.Or(a, b)
 }
